@@ -5,30 +5,21 @@ import (
 	"testing"
 
 	"stadda/api"
+	"stadda/chance"
 	"stadda/num"
 )
 
-// source is a row of numbers that look like chance and are the same in each run.
-type source uint64
-
-func (s *source) next() uint64 {
-	*s += 0x9e3779b97f4a7c15
-	z := uint64(*s)
-	z = (z ^ z>>30) * 0xbf58476d1ce4e5b9
-	z = (z ^ z>>27) * 0x94d049bb133111eb
-	return z ^ z>>31
-}
-
-func (s *source) below(n int) int {
-	return int(s.next() % uint64(n))
+// source is a row of numbers that are the same in each run.
+type source struct {
+	chance.Source
 }
 
 // number is an integer of at most that many words, often with runs of zeros and ones, at which carries and estimated digits go wrong.
 func (s *source) number(words int) *big.Int {
 	n := new(big.Int)
-	for range s.below(words + 1) {
-		w := s.next()
-		switch s.below(5) {
+	for range s.Below(words + 1) {
+		w := s.Next()
+		switch s.Below(5) {
 		case 0:
 			w = 0
 		case 1:
@@ -38,8 +29,8 @@ func (s *source) number(words int) *big.Int {
 		}
 		n.Lsh(n, 64).Or(n, new(big.Int).SetUint64(w))
 	}
-	n.Rsh(n, uint(s.below(64)))
-	if s.below(2) == 0 {
+	n.Rsh(n, uint(s.Below(64)))
+	if s.Below(2) == 0 {
 		n.Neg(n)
 	}
 	return n

@@ -98,7 +98,7 @@ func TestStringGivesWhatParseIntReads(t *testing.T) {
 			wantInt(t, "String", integer(t, n), api.OK, n)
 		}
 	}
-	s := source(1)
+	s := source{1}
 	for range 500 {
 		n := s.number(12)
 		wantInt(t, "String", integer(t, n), api.OK, n)
@@ -126,10 +126,10 @@ func TestSignAndCmp(t *testing.T) {
 }
 
 func TestArithmetic(t *testing.T) {
-	s := source(2)
+	s := source{2}
 	for range 3000 {
 		m, n := s.number(9), s.number(9)
-		if s.below(10) == 0 {
+		if s.Below(10) == 0 {
 			m.Neg(n)
 		}
 		a, b := integer(t, m), integer(t, n)
@@ -190,10 +190,10 @@ func TestIntegersAtTheLimit(t *testing.T) {
 }
 
 func TestDiv(t *testing.T) {
-	s := source(3)
+	s := source{3}
 	for range 5000 {
 		m, n := s.number(9), s.number(6)
-		if s.below(3) == 0 { // a rest of 0
+		if s.Below(3) == 0 { // a rest of 0
 			m.Mul(m, n)
 		}
 		if n.Sign() == 0 {
@@ -272,7 +272,7 @@ func TestRoot(t *testing.T) {
 	for n := range int64(300) {
 		check(big.NewInt(n))
 	}
-	s := source(4)
+	s := source{4}
 	for range 500 {
 		n := s.number(8)
 		n.Abs(n)
@@ -308,7 +308,7 @@ func TestGcd(t *testing.T) {
 			check(big.NewInt(m), big.NewInt(n))
 		}
 	}
-	s := source(5)
+	s := source{5}
 	for range 3000 {
 		m, n, common := s.number(10), s.number(10), s.number(4)
 		check(m, n)
@@ -316,7 +316,7 @@ func TestGcd(t *testing.T) {
 	}
 	for range 1000 { // numbers whose highest words agree
 		m := s.number(8)
-		check(m, plus(m, int64(s.below(1000))))
+		check(m, plus(m, int64(s.Below(1000))))
 		check(m, new(big.Int).Add(m, s.number(3)))
 	}
 	// Neighbours among Fibonacci's numbers take the most steps.

@@ -34,7 +34,7 @@ func TestIntegersAreAnOrderedRing(t *testing.T) {
 			t.Errorf("%s: %s and %s", law, a, b)
 		}
 	}
-	s := source(11)
+	s := source{11}
 	for range 1000 {
 		a, b, c := integer(t, s.number(5)), integer(t, s.number(5)), integer(t, s.number(5))
 		same("sums commute", sumOf(t, a, b), sumOf(t, b, a))
@@ -73,7 +73,7 @@ func TestFractionsAreAnOrderedField(t *testing.T) {
 	}
 	add := func(a, b num.Rat) num.Rat { return checked(a.Add(b)) }
 	mul := func(a, b num.Rat) num.Rat { return checked(a.Mul(b)) }
-	s := source(12)
+	s := source{12}
 	for range 1000 {
 		a, b, c := fraction(t, someRatio(&s).RatString()), fraction(t, someRatio(&s).RatString()), fraction(t, someRatio(&s).RatString())
 		same("sums commute", add(a, b), add(b, a))
@@ -135,10 +135,10 @@ func TestEulersCriterion(t *testing.T) {
 }
 
 func TestSymbolIsAProduct(t *testing.T) {
-	s := source(13)
+	s := source{13}
 	for range 5000 {
-		a, b := int64(int32(s.next())), int64(int32(s.next()))
-		m, n := int64(s.below(500_000))*2+1, int64(s.below(500_000))*2+1
+		a, b := int64(int32(s.Next())), int64(int32(s.Next()))
+		m, n := int64(s.Below(500_000))*2+1, int64(s.Below(500_000))*2+1
 		if symbolOf(t, a*b, n) != symbolOf(t, a, n)*symbolOf(t, b, n) {
 			t.Errorf("symbol of %d * %d and %d", a, b, n)
 		}
@@ -149,11 +149,11 @@ func TestSymbolIsAProduct(t *testing.T) {
 }
 
 func TestReciprocity(t *testing.T) {
-	s := source(14)
+	s := source{14}
 	for i := range int64(5000) {
 		m, n := i%71*2+1, i/71*2+1
 		if i%2 == 0 {
-			m, n = int64(s.next()%greatestModulus)|1, int64(s.next()%greatestModulus)|1
+			m, n = int64(s.Next()%greatestModulus)|1, int64(s.Next()%greatestModulus)|1
 		}
 		g, _ := num.Gcd(num.Whole(m), num.Whole(n)).Int64()
 		want := 1

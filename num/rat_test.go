@@ -93,7 +93,7 @@ func TestParseOrderOfErrors(t *testing.T) {
 }
 
 func TestPartsOfFractions(t *testing.T) {
-	s := source(6)
+	s := source{6}
 	for range 1000 {
 		m, n := s.number(5), s.number(5)
 		if n.Sign() == 0 {
@@ -118,10 +118,10 @@ func TestPartsOfFractions(t *testing.T) {
 }
 
 func TestFractionArithmetic(t *testing.T) {
-	s := source(7)
+	s := source{7}
 	for range 3000 {
 		x, y := someRatio(&s), someRatio(&s)
-		if s.below(10) == 0 {
+		if s.Below(10) == 0 {
 			y.Neg(x)
 		}
 		a, b := fraction(t, x.RatString()), fraction(t, y.RatString())
@@ -148,8 +148,8 @@ func TestFractionArithmetic(t *testing.T) {
 // someRatio has a denominator of few primes, so that sums and products are often to be reduced.
 func someRatio(s *source) *big.Rat {
 	d := big.NewInt(1)
-	for range s.below(12) {
-		d.Mul(d, big.NewInt([]int64{2, 3, 5, 1 << 40, 1<<61 - 1}[s.below(5)]))
+	for range s.Below(12) {
+		d.Mul(d, big.NewInt([]int64{2, 3, 5, 1 << 40, 1<<61 - 1}[s.Below(5)]))
 	}
 	return new(big.Rat).SetFrac(s.number(4), d)
 }

@@ -17,29 +17,29 @@ var notModuli = []int64{math.MinInt64, -greatestModulus, -1, 0, greatestModulus 
 
 // manyInt64s has the int64s at the ends, and others of all lengths.
 func manyInt64s(n int) []int64 {
-	s := source(8)
+	s := source{8}
 	l := append([]int64{greatestModulus, -greatestModulus, greatestModulus - 1}, int64s...)
 	for range n {
-		l = append(l, int64(s.next())>>s.below(64))
+		l = append(l, int64(s.Next())>>s.Below(64))
 	}
 	return l
 }
 
 // manyModuli has the least moduli, the greatest ones, and others of all lengths.
 func manyModuli(n int) []int64 {
-	s := source(9)
+	s := source{9}
 	l := []int64{1, 2, 3, 4, 5, 6, 7, 12, 1 << 39, 999_999_999_989, greatestModulus - 1, greatestModulus}
 	for range n {
-		l = append(l, 1+int64(s.next()%greatestModulus)>>s.below(40))
+		l = append(l, 1+int64(s.Next()%greatestModulus)>>s.Below(40))
 	}
 	return l
 }
 
 func TestPower(t *testing.T) {
-	s := source(10)
+	s := source{10}
 	for _, m := range manyModuli(40) {
 		for _, a := range manyInt64s(10) {
-			for _, n := range []int64{0, 1, 2, 3, int64(s.below(1000)), int64(s.next() >> 1), math.MaxInt64} {
+			for _, n := range []int64{0, 1, 2, 3, int64(s.Below(1000)), int64(s.Next() >> 1), math.MaxInt64} {
 				got, e := num.Power(a, n, m)
 				want := new(big.Int).Exp(new(big.Int).Mod(big.NewInt(a), big.NewInt(m)), big.NewInt(n), big.NewInt(m)).Int64()
 				if got != want || e != api.OK {

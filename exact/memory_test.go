@@ -1,4 +1,4 @@
-package num
+package exact
 
 import "testing"
 
@@ -15,16 +15,22 @@ func shared(a, b digits) bool {
 	return false
 }
 
+func integer(t *testing.T, s string) Int {
+	t.Helper()
+	a, ok := ParseInt(s)
+	if !ok {
+		t.Fatalf("ParseInt of %q", s)
+	}
+	return a
+}
+
 func TestIntegersShareNoMemory(t *testing.T) {
-	a, _ := ParseInt("-123456789012345678901234567890")
+	a := integer(t, "-123456789012345678901234567890")
 	b := Whole(7)
 	var zero Int
-	sum, _ := a.Add(zero)
-	difference, _ := a.Sub(zero)
-	product, _ := a.Mul(Whole(1))
-	quotient, _, _ := a.Div(Whole(1))
-	_, rest, _ := b.Div(a)
-	for i, c := range []Int{a.Neg(), sum, difference, product, quotient, rest, Gcd(a, zero), Gcd(zero, b), Gcd(a, a), From(a).Num()} {
+	quotient, _ := a.Div(Whole(1))
+	_, rest := b.Div(a)
+	for i, c := range []Int{a.Neg(), a.Plus(zero), zero.Plus(a), a.Minus(zero), zero.Minus(a), a.Times(Whole(1)), quotient, rest, Gcd(a, zero), Gcd(zero, b), Gcd(a, a), From(a).Num()} {
 		if shared(c.absolute, a.absolute) || shared(c.absolute, b.absolute) {
 			t.Errorf("result %d shares memory with an argument", i)
 		}
@@ -32,16 +38,10 @@ func TestIntegersShareNoMemory(t *testing.T) {
 }
 
 func TestFractionsShareNoMemory(t *testing.T) {
-	r, _ := Parse("-123456789012345678901234567890/123456789012345678901234567891")
+	r, _ := ParseRat("-123456789012345678901234567890/123456789012345678901234567891")
 	var zero Rat
 	whole := Of(5)
-	sum, _ := r.Add(zero)
-	difference, _ := r.Sub(zero)
-	product, _ := r.Mul(Of(1))
-	quotient, _ := r.Quo(Of(1))
-	turned, _ := Of(1).Quo(r)
-	same, _ := whole.Add(zero)
-	for i, s := range []Rat{r.Neg(), sum, difference, product, quotient, turned, From(r.Num()), From(r.Den()), From(r.Floor()), same, From(whole.Floor()), whole.Neg()} {
+	for i, s := range []Rat{r.Neg(), r.Plus(zero), zero.Plus(r), r.Minus(zero), zero.Minus(r), r.Times(Of(1)), r.Over(Of(1)), Of(1).Over(r), From(r.Num()), From(r.Den()), From(r.Floor()), whole.Plus(zero), whole.Minus(zero), zero.Minus(whole), From(whole.Floor()), whole.Neg()} {
 		for _, d := range []digits{s.numerator.absolute, s.denominator} {
 			if shared(d, r.numerator.absolute) || shared(d, r.denominator) || shared(d, whole.numerator.absolute) {
 				t.Errorf("result %d shares memory with an argument", i)
@@ -58,12 +58,10 @@ func TestFractionsShareNoMemory(t *testing.T) {
 }
 
 func TestNumbersHaveNoSpareRoom(t *testing.T) {
-	a, _ := ParseInt("-123456789012345678901234567890")
-	square, _ := a.Mul(a)
-	sum, _ := a.Add(a)
-	quotient, rest, _ := square.Div(Whole(1 << 62))
-	root, _ := square.Root()
-	for i, b := range []Int{a, a.Neg(), Whole(3), square, sum, quotient, rest, root, Gcd(a, square)} {
+	a := integer(t, "-123456789012345678901234567890")
+	square := a.Times(a)
+	quotient, rest := square.Div(Whole(1 << 62))
+	for i, b := range []Int{a, a.Neg(), Whole(3), square, a.Plus(a), quotient, rest, square.Root(), Gcd(a, square)} {
 		if cap(b.absolute) != len(b.absolute) {
 			t.Errorf("number %d has room for %d words and uses %d", i, cap(b.absolute), len(b.absolute))
 		}

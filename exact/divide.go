@@ -1,4 +1,4 @@
-package num
+package exact
 
 import "math/bits"
 

@@ -94,13 +94,14 @@ type made struct {
 // unmoved are a basis of the polynomials v of less degree than f for which f divides v^p - v; the first of them is 1. They are the sums of c_i x^i for which the sum of the rows c_i (x^(p i) - x^i) is 0 by f.
 func (p field) unmoved(f remainders) []remainders {
 	var basis []remainders
+	// Each row has the place that its length says; that of the row 0 stays empty.
 	pivots := make([]made, len(f))
 	step := p.powerOfX(f)
 	power := oneOf(p)
 	for i := range len(f) - 1 {
 		x := p.monomial(i)
 		m := made{row: difference(p, power, x), by: x}
-		for len(m.row) > 0 && len(pivots[len(m.row)].row) > 0 {
+		for len(pivots[len(m.row)].row) > 0 {
 			c, pivot := m.row[len(m.row)-1], pivots[len(m.row)]
 			m = made{row: lessMultiple(p, m.row, c, 0, pivot.row), by: lessMultiple(p, m.by, c, 0, pivot.by)}
 		}

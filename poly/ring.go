@@ -96,10 +96,7 @@ func product[E any](r ring[E], factors ...shape[E]) shape[E] {
 }
 
 func productOfTwo[E any](r ring[E], f, g shape[E]) shape[E] {
-	if len(f) == 0 || len(g) == 0 {
-		return nil
-	}
-	both := make(shape[E], len(f)+len(g)-1)
+	both := make(shape[E], len(f)+len(g))
 	for k := range both {
 		both[k] = r.of(exact.Int{})
 	}

@@ -82,7 +82,7 @@ func (a whole) derived() whole {
 	return derivative
 }
 
-// pseudoRest is the rest by b of a times the last coefficient of b to the power deg a - deg b + 1, for deg a at least deg b.
+// pseudoRest is the rest by b of a times the last coefficient of b to the power deg a - deg b + 1, or a itself if the degree of a is less.
 func (a whole) pseudoRest(b whole) whole {
 	rest := a
 	for k := len(a) - len(b); k >= 0; k-- {
@@ -121,9 +121,6 @@ func (a whole) quotient(b whole) whole {
 
 // common is the primitive common divisor of a and b of the highest degree, 0 if both are 0.
 func common(a, b whole) whole {
-	if len(a) < len(b) {
-		a, b = b, a
-	}
 	for len(b) > 0 {
 		rest, _ := a.pseudoRest(b).primitive()
 		a, b = b, rest
@@ -134,9 +131,6 @@ func common(a, b whole) whole {
 
 // resultant is the resultant of a and b, by the sequence of subresultants: each rest is divided by what is known to divide it, so that its coefficients are minors of Sylvester's matrix.
 func resultant(a, b whole) exact.Int {
-	if len(a) == 0 || len(b) == 0 {
-		return exact.Int{}
-	}
 	sign := exact.Whole(1)
 	if len(a) < len(b) {
 		sign = signOfSwap(a, b)
@@ -165,16 +159,13 @@ func signOfSwap(a, b whole) exact.Int {
 	return exact.Whole(1)
 }
 
-// raised is a^n / b^(n - 1), which is an integer for what resultant needs it for; for n = 0 it is b.
+// raised is a^n / b^(n - 1), which is an integer for what resultant needs it for; b is 1 if n is 0.
 func raised(a, b exact.Int, n int) exact.Int {
-	if n == 0 {
-		return b
-	}
 	quotient, _ := power(a, n).Div(power(b, n-1))
 	return quotient
 }
 
-// power is a^n.
+// power is a^n, or 1 if n is negative.
 func power(a exact.Int, n int) exact.Int {
 	product := exact.Whole(1)
 	for range n {

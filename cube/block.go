@@ -1,6 +1,9 @@
 package cube
 
-import "stadda/api"
+import (
+	"stadda/api"
+	"stadda/bitset"
+)
 
 // sensitive tells whether f has another value at x turned in the mask.
 func sensitive(f []bool, x, mask int) bool {
@@ -29,7 +32,7 @@ func Sensitivity(f []bool) (int, api.Errno) {
 func mostBlocks(f []bool, x int) sums {
 	var most sums
 	for mask := range f {
-		for block := range within(mask) {
+		for block := range bitset.Within(mask) {
 			if sensitive(f, x, block) {
 				most[mask] = max(most[mask], 1+most[mask&^block])
 			}
@@ -51,7 +54,7 @@ func Blocks(f []bool) (int, []int, api.Errno) {
 		}
 	}
 	var list []int
-	for block := range within(left) { // no block that is passed over can be of use later
+	for block := range bitset.Within(left) { // no block that is passed over can be of use later
 		if block&^left == 0 && sensitive(f, at, block) && most[left] == 1+most[left&^block] {
 			list = append(list, block)
 			left &^= block

@@ -1,12 +1,15 @@
 package cube
 
-import "stadda/api"
+import (
+	"stadda/api"
+	"stadda/bitset"
+)
 
 // certificate is the first of the certificates at x that have the fewest bits.
 func certificate(f []bool, x int) int {
 	best := len(f) - 1
 	for mask := range f {
-		if count(mask) < count(best) && (part{mask, x & mask}).has(f, f[x]) {
+		if bitset.Count(mask) < bitset.Count(best) && (part{mask, x & mask}).has(f, f[x]) {
 			best = mask
 		}
 	}
@@ -31,7 +34,7 @@ func Certificates(f []bool) (int, api.Errno) {
 	}
 	size := 0
 	for x := range f {
-		size = max(size, count(certificate(f, x)))
+		size = max(size, bitset.Count(certificate(f, x)))
 	}
 	return size, api.OK
 }

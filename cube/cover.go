@@ -5,6 +5,7 @@ import (
 	"slices"
 
 	"stadda/api"
+	"stadda/bitset"
 )
 
 // maxCoverSize is how many elements a table has at most for which a cover is made.
@@ -30,7 +31,7 @@ func Primes(f []bool) ([][2]int, api.Errno) {
 	}
 	var list [][2]int
 	for mask := range f {
-		for value := range within(mask) {
+		for value := range bitset.Within(mask) {
 			if (part{mask, value}).isPrime(f) {
 				list = append(list, [2]int{mask, value})
 			}
@@ -64,7 +65,7 @@ func Cover(f []bool) ([][2]int, api.Errno) {
 search:
 	for size := range len(primes) + 1 {
 		for chosen := range 1 << len(primes) { // at most 13 of them
-			if count(chosen) != size {
+			if bitset.Count(chosen) != size {
 				continue
 			}
 			cover = cover[:0]

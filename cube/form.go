@@ -4,6 +4,7 @@ import (
 	"slices"
 
 	"stadda/api"
+	"stadda/bitset"
 )
 
 // turn puts, for one bit after the other, what step makes of them in place of each two elements of the list, the one without the bit and the one with it.
@@ -77,7 +78,7 @@ func Degree(f []bool) (int, api.Errno) {
 	degree := 0
 	for mask, n := range c {
 		if n != 0 {
-			degree = max(degree, count(mask))
+			degree = max(degree, bitset.Count(mask))
 		}
 	}
 	return degree, api.OK

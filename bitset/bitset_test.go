@@ -32,6 +32,32 @@ func TestCount(t *testing.T) {
 	}
 }
 
+func TestElements(t *testing.T) {
+	for set := range 1 << 12 {
+		for range 2 {
+			if l := slices.Collect(bitset.Elements(set)); !slices.Equal(l, elements(set)) {
+				t.Errorf("Elements of %d: %v", set, l)
+			}
+		}
+		n := 0
+		for range bitset.Elements(set) {
+			if n++; n == 3 {
+				break
+			}
+		}
+		if n != min(3, len(elements(set))) {
+			t.Errorf("Elements of %d: %d, then left", set, n)
+		}
+	}
+	for _, set := range []int{1 << 62, math.MaxInt, math.MaxInt - 1, 1<<62 | 1} {
+		l := slices.Collect(bitset.Elements(set))
+		all := bitset.Elements(set)
+		if !slices.Equal(l, elements(set)) || !slices.Equal(slices.Collect(all), slices.Collect(all)) {
+			t.Errorf("Elements of %d: %v", set, l)
+		}
+	}
+}
+
 func TestWithin(t *testing.T) {
 	for set := range 1 << 8 {
 		var want []int
